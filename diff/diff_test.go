@@ -7,32 +7,15 @@ import (
 	"testing"
 
 	"changeforge/api"
+	"changeforge/samples"
 )
+
+const longest, tooLong, newLine = samples.Longest, samples.TooLong, samples.NewLine
 
 var (
-	tooLong = strings.Repeat("x", api.MaxLine+1)
-	longest = strings.Repeat("x", api.MaxLine)
-	newLine = "a\nb"
+	fault, repeat, words = samples.Fault, samples.Repeat, samples.Words
+	patch, hunk          = samples.Patch, samples.Hunk
 )
-
-func fault(code, index int) api.Fault { return api.Fault{Code: code, Index: index} }
-
-func repeat(line string, n int) []string { return slices.Repeat([]string{line}, n) }
-
-// words divides a text that is written in one line into its lines.
-func words(text string) []string { return strings.Fields(text) }
-
-func patch(hunks ...api.Hunk) api.Patch { return api.Patch{Hunks: hunks} }
-
-func hunk(at int, deleted, inserted string) api.Hunk {
-	return api.Hunk{At: at, Old: words(deleted), New: words(inserted)}
-}
-
-func equalPatches(p, q api.Patch) bool {
-	return slices.EqualFunc(p.Hunks, q.Hunks, func(g, h api.Hunk) bool {
-		return g.At == h.At && slices.Equal(g.Old, h.Old) && slices.Equal(g.New, h.New)
-	})
-}
 
 func checkDistance(t *testing.T, a, b []string, want int, wantFault api.Fault) {
 	t.Helper()
@@ -45,7 +28,7 @@ func checkDistance(t *testing.T, a, b []string, want int, wantFault api.Fault) {
 func checkScript(t *testing.T, a, b []string, want api.Patch, wantFault api.Fault) {
 	t.Helper()
 	got, gotFault := Script(a, b)
-	if !equalPatches(got, want) || gotFault != wantFault {
+	if !samples.EqualPatches(got, want) || gotFault != wantFault {
 		t.Errorf("Script(%.60q, %.60q): got %v %v, want %v %v", a, b, got, gotFault, want, wantFault)
 	}
 }
@@ -56,23 +39,6 @@ func checkCommon(t *testing.T, a, b []string, want []string, wantFault api.Fault
 	if !slices.Equal(got, want) || gotFault != wantFault {
 		t.Errorf("Common(%.60q, %.60q): got %.60q %v, want %.60q %v", a, b, got, gotFault, want, wantFault)
 	}
-}
-
-// texts returns all texts of at most n lines that are taken from the given ones.
-func texts(n int, from ...string) [][]string {
-	all := [][]string{{}}
-	last := all
-	for range n {
-		var next [][]string
-		for _, text := range last {
-			for _, line := range from {
-				next = append(next, append(slices.Clone(text), line))
-			}
-		}
-		all = append(all, next...)
-		last = next
-	}
-	return all
 }
 
 // A length returns the length of the longest common subsequence of two texts.
@@ -209,7 +175,7 @@ func checkAll(t *testing.T, a, b []string, longestCommon length) {
 
 func TestSmallTextsFollowDefinition(t *testing.T) {
 	longestCommon := lengthOfSmall()
-	for _, all := range [][][]string{texts(6, "x", "y"), texts(4, "x", "y", "z")} {
+	for _, all := range [][][]string{samples.Texts(6, "x", "y"), samples.Texts(4, "x", "y", "z")} {
 		for _, a := range all {
 			for _, b := range all {
 				checkAll(t, a, b, longestCommon)
@@ -218,25 +184,17 @@ func TestSmallTextsFollowDefinition(t *testing.T) {
 	}
 }
 
-func randomText(random *rand.Rand, n, kinds int) []string {
-	var text []string
-	for range n {
-		text = append(text, string(rune('a'+random.Intn(kinds))))
-	}
-	return text
-}
-
 func TestLongTextsFollowDefinition(t *testing.T) {
 	random := rand.New(rand.NewSource(1))
 	for range 60 {
 		kinds := 1 + random.Intn(26)
-		a := randomText(random, random.Intn(40), kinds)
-		b := randomText(random, random.Intn(40), kinds)
+		a := samples.RandomText(random.Intn, random.Intn(40), kinds)
+		b := samples.RandomText(random.Intn, random.Intn(40), kinds)
 		checkAll(t, a, b, lengthOfLarge)
 	}
 	for _, kinds := range []int{1, 2, 5, 26} {
-		a := randomText(random, api.MaxLines, kinds)
-		b := randomText(random, api.MaxLines, kinds)
+		a := samples.RandomText(random.Intn, api.MaxLines, kinds)
+		b := samples.RandomText(random.Intn, api.MaxLines, kinds)
 		checkAll(t, a, b, lengthOfLarge)
 	}
 }
@@ -356,8 +314,8 @@ func TestScriptLeadsToSecondText(t *testing.T) {
 	random := rand.New(rand.NewSource(2))
 	for range 300 {
 		kinds := 1 + random.Intn(10)
-		a := randomText(random, random.Intn(api.MaxLines+1), kinds)
-		b := randomText(random, random.Intn(api.MaxLines+1), kinds)
+		a := samples.RandomText(random.Intn, random.Intn(api.MaxLines+1), kinds)
+		b := samples.RandomText(random.Intn, random.Intn(api.MaxLines+1), kinds)
 		p, _ := Script(a, b)
 		changed := 0
 		for i, h := range p.Hunks {
@@ -449,24 +407,6 @@ func TestArgumentsStay(t *testing.T) {
 	}
 }
 
-// checkApart overwrites the lists of lines with all their capacity, and reports whether they share memory.
-func checkApart(t *testing.T, lists ...[]string) {
-	t.Helper()
-	for i, list := range lists {
-		for j := range list[:cap(list)] {
-			list[:cap(list)][j] = string(rune('A' + i))
-		}
-	}
-	for i, list := range lists {
-		for _, line := range list[:cap(list)] {
-			if line != string(rune('A'+i)) {
-				t.Errorf("the lists %d and %s share memory", i, line)
-				return
-			}
-		}
-	}
-}
-
 func TestResultsAreNewMemory(t *testing.T) {
 	a, b := words("a b k c d k e k"), words("k f g k k h i")
 	common, _ := Common(a, b)
@@ -481,5 +421,7 @@ func TestResultsAreNewMemory(t *testing.T) {
 	if len(lists) < 10 {
 		t.Fatalf("only %d lists to compare", len(lists))
 	}
-	checkApart(t, append(lists, a, b)...)
+	if samples.Shared(append(lists, a, b)...) {
+		t.Error("the results share memory with each other or with the arguments")
+	}
 }

@@ -7,17 +7,12 @@ import (
 	"testing"
 
 	"changeforge/api"
+	"changeforge/samples"
 )
 
-var (
-	tooLong = strings.Repeat("x", api.MaxLine+1)
-	longest = strings.Repeat("x", api.MaxLine)
-	newLine = "a\nb"
-)
+const longest, tooLong, newLine = samples.Longest, samples.TooLong, samples.NewLine
 
-func fault(code, index int) api.Fault { return api.Fault{Code: code, Index: index} }
-
-func repeat(line string, n int) []string { return slices.Repeat([]string{line}, n) }
+var fault, repeat = samples.Fault, samples.Repeat
 
 func checkValidate(t *testing.T, text []string, want api.Fault) {
 	t.Helper()
@@ -48,23 +43,6 @@ func checkCommon(t *testing.T, a, b []string, prefix, suffix int, wantFault api.
 	if p != prefix || s != suffix || f != wantFault {
 		t.Errorf("Common(%.60q, %.60q): got %d %d %v, want %d %d %v", a, b, p, s, f, prefix, suffix, wantFault)
 	}
-}
-
-// texts returns all texts of at most n lines that are taken from the given ones.
-func texts(n int, from ...string) [][]string {
-	all := [][]string{{}}
-	last := all
-	for range n {
-		var next [][]string
-		for _, text := range last {
-			for _, line := range from {
-				next = append(next, append(slices.Clone(text), line))
-			}
-		}
-		all = append(all, next...)
-		last = next
-	}
-	return all
 }
 
 // unchanged calls f with a part of the memory and reports whether f left the memory alone, spare capacity included.
@@ -172,7 +150,7 @@ func split(text string) []string {
 }
 
 func TestSplitFollowsDefinition(t *testing.T) {
-	for _, parts := range texts(7, "a", "\n", "\r") {
+	for _, parts := range samples.Texts(7, "a", "\n", "\r") {
 		text := strings.Join(parts, "")
 		checkSplit(t, text, split(text), api.Fault{})
 	}
@@ -258,7 +236,7 @@ func TestJoinOrder(t *testing.T) {
 }
 
 func TestJoinReversesSplit(t *testing.T) {
-	for _, text := range texts(5, "", "a", "\r") {
+	for _, text := range samples.Texts(5, "", "a", "\r") {
 		joined, f := Join(text)
 		if f != (api.Fault{}) {
 			t.Fatalf("Join(%q): %v", text, f)
@@ -318,7 +296,7 @@ func common(a, b []string) (int, int) {
 }
 
 func TestCommonFollowsDefinition(t *testing.T) {
-	all := texts(5, "x", "y")
+	all := samples.Texts(5, "x", "y")
 	for _, a := range all {
 		for _, b := range all {
 			p, s := common(a, b)

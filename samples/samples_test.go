@@ -1,0 +1,62 @@
+package samples
+
+import (
+	"slices"
+	"testing"
+
+	"changeforge/api"
+)
+
+func TestLinesAtLimits(t *testing.T) {
+	if len(Longest) != api.MaxLine || len(TooLong) != api.MaxLine+1 {
+		t.Errorf("the lines have %d and %d bytes", len(Longest), len(TooLong))
+	}
+}
+
+func TestTexts(t *testing.T) {
+	want := [][]string{{}, {"a"}, {"b"}, {"a", "a"}, {"a", "b"}, {"b", "a"}, {"b", "b"}}
+	if got := Texts(2, "a", "b"); !slices.EqualFunc(got, want, slices.Equal) {
+		t.Errorf("got %q, want %q", got, want)
+	}
+	if n := len(Texts(3, "a", "b", "c")); n != 1+3+9+27 {
+		t.Errorf("got %d texts", n)
+	}
+}
+
+func TestEqualPatches(t *testing.T) {
+	p := Patch(Hunk(0, "a", "b"), Hunk(3, "", "c"))
+	if !EqualPatches(p, Patch(p.Hunks...)) || !EqualPatches(Patch(), api.Patch{}) {
+		t.Error("equal patches are said to differ")
+	}
+	for _, q := range []api.Patch{
+		Patch(), Patch(p.Hunks[0]), Patch(p.Hunks[0], Hunk(4, "", "c")),
+		Patch(p.Hunks[0], Hunk(3, "c", "")), Patch(p.Hunks[0], Hunk(3, "", "d")), Patch(p.Hunks[0], Hunk(3, "c", "c")),
+	} {
+		if EqualPatches(p, q) {
+			t.Errorf("%v and %v are said to be equal", p, q)
+		}
+	}
+}
+
+func TestShared(t *testing.T) {
+	text := Words("a b c d")
+	for _, c := range []struct {
+		lists [][]string
+		want  bool
+	}{
+		{nil, false},
+		{[][]string{text}, false},
+		{[][]string{text, nil, {}}, false},
+		{[][]string{text, slices.Clone(text)}, false},
+		{[][]string{text[:2:2], text[2:]}, false},
+		{[][]string{text, text}, true},
+		{[][]string{text[:3:3], text[2:]}, true},
+		{[][]string{text[:2], text[3:]}, true},
+		{[][]string{text[:0], text[3:]}, true},
+		{[][]string{Words("x"), text, Words("y"), text[1:2]}, true},
+	} {
+		if got := Shared(c.lists...); got != c.want {
+			t.Errorf("Shared(%q): got %v", c.lists, got)
+		}
+	}
+}
