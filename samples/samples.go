@@ -52,19 +52,9 @@ func RandomText(random func(n int) int, n, kinds int) []string {
 	return text
 }
 
-// Patch returns a patch.
-func Patch(hunks ...api.Hunk) api.Patch { return api.Patch{Hunks: slices.Clone(hunks)} }
-
-// Hunk returns a hunk whose old and new lines are each written in one line.
-func Hunk(at int, deleted, inserted string) api.Hunk {
-	return api.Hunk{At: at, Old: Words(deleted), New: Words(inserted)}
-}
-
-// EqualPatches compares two patches.
-func EqualPatches(p, q api.Patch) bool {
-	return slices.EqualFunc(p.Hunks, q.Hunks, func(g, h api.Hunk) bool {
-		return g.At == h.At && slices.Equal(g.Old, h.Old) && slices.Equal(g.New, h.New)
-	})
+// Spare returns a copy of a text that has more capacity than it needs, filled with lines.
+func Spare(text []string) []string {
+	return append(slices.Clone(text), "spare", "capacity")[:len(text)]
 }
 
 // Shared tells whether any two of the lists share memory, including their spare capacity.

@@ -23,18 +23,14 @@ func TestTexts(t *testing.T) {
 	}
 }
 
-func TestEqualPatches(t *testing.T) {
-	p := Patch(Hunk(0, "a", "b"), Hunk(3, "", "c"))
-	if !EqualPatches(p, Patch(p.Hunks...)) || !EqualPatches(Patch(), api.Patch{}) {
-		t.Error("equal patches are said to differ")
+func TestSpare(t *testing.T) {
+	text := Words("a b")
+	spare := Spare(text)
+	if !slices.Equal(spare, text) || cap(spare) < 4 || !slices.Equal(spare[:4], Words("a b spare capacity")) {
+		t.Errorf("got %q with %q in its capacity", spare, spare[:cap(spare)])
 	}
-	for _, q := range []api.Patch{
-		Patch(), Patch(p.Hunks[0]), Patch(p.Hunks[0], Hunk(4, "", "c")),
-		Patch(p.Hunks[0], Hunk(3, "c", "")), Patch(p.Hunks[0], Hunk(3, "", "d")), Patch(p.Hunks[0], Hunk(3, "c", "c")),
-	} {
-		if EqualPatches(p, q) {
-			t.Errorf("%v and %v are said to be equal", p, q)
-		}
+	if Shared(text, spare) {
+		t.Error("the copy shares memory")
 	}
 }
 

@@ -15,6 +15,7 @@ const longest, tooLong, newLine = samples.Longest, samples.TooLong, samples.NewL
 var (
 	fault, repeat, words = samples.Fault, samples.Repeat, samples.Words
 	patch, hunk          = samples.Patch, samples.Hunk
+	insertions           = samples.Insertions
 )
 
 func checkValidate(t *testing.T, p api.Patch, want api.Fault) {
@@ -48,51 +49,6 @@ func checkCompose(t *testing.T, p, q, want api.Patch, wantFault api.Fault) {
 	}
 }
 
-// patches returns all patches of at most n hunks that begin from the one place to the other and have the given texts.
-func patches(n, from, to int, olds, news [][]string) []api.Patch {
-	all := []api.Patch{{}}
-	if n == 0 {
-		return all
-	}
-	for at := from; at <= to; at++ {
-		for _, old := range olds {
-			// The next hunk has to leave a line between.
-			rests := patches(n-1, at+len(old)+1, to, olds, news)
-			for _, inserted := range news {
-				if len(old)+len(inserted) == 0 {
-					continue
-				}
-				first := api.Hunk{At: at, Old: old, New: inserted}
-				for _, rest := range rests {
-					all = append(all, patch(append([]api.Hunk{first}, rest.Hunks...)...))
-				}
-			}
-		}
-	}
-	return all
-}
-
-// smallPatches returns patches with one hunk of up to two lines, and with several of up to one line.
-func smallPatches(hunks, to int) []api.Patch {
-	large := patches(1, 0, 2, samples.Texts(2, "a", "b"), samples.Texts(2, "a", "b"))
-	return append(large, patches(hunks, 0, to, samples.Texts(1, "a"), samples.Texts(1, "a", "b"))...)
-}
-
-// randomPatch returns a patch that can be applied to the text.
-func randomPatch(random *rand.Rand, text []string, size, kinds int) api.Patch {
-	var p api.Patch
-	at := random.Intn(size)
-	for at <= len(text) {
-		end := min(at+random.Intn(size), len(text))
-		inserted := samples.RandomText(random.Intn, random.Intn(size), kinds)
-		if end-at+len(inserted) > 0 {
-			p.Hunks = append(p.Hunks, api.Hunk{At: at, Old: text[at:end], New: inserted})
-		}
-		at = end + 1 + random.Intn(size)
-	}
-	return p
-}
-
 // R4.1
 
 func TestValidPatches(t *testing.T) {
@@ -105,7 +61,7 @@ func TestValidPatches(t *testing.T) {
 	checkValidate(t, patch(hunk(0, "", "a"), hunk(1, "", "b")), api.Fault{})
 	checkValidate(t, patch(hunk(0, "a", "b c d"), hunk(2, "e", ""), hunk(4, "", "f")), api.Fault{})
 	checkValidate(t, patch(api.Hunk{At: 0, Old: []string{""}}), api.Fault{})
-	for _, p := range smallPatches(3, 4) {
+	for _, p := range samples.SmallPatches(3, 4) {
 		checkValidate(t, p, api.Fault{})
 	}
 }
@@ -122,15 +78,6 @@ func TestValidateAtLimits(t *testing.T) {
 	checkValidate(t, patch(api.Hunk{At: 1, Old: x[1:]}), api.Fault{})
 	checkValidate(t, patch(hunk(0, "", "a"), api.Hunk{At: 1, Old: x[1:], New: x}), api.Fault{})
 	checkValidate(t, insertions(api.MaxLines+1), api.Fault{})
-}
-
-// insertions returns a patch with n hunks, as close to each other as possible.
-func insertions(n int) api.Patch {
-	var p api.Patch
-	for at := range n {
-		p.Hunks = append(p.Hunks, hunk(at, "", "a"))
-	}
-	return p
 }
 
 func TestTooManyHunks(t *testing.T) {
@@ -246,7 +193,7 @@ func firstConflict(p api.Patch, text []string) int {
 func TestApplyFollowsDefinition(t *testing.T) {
 	all := samples.Texts(3, "a", "b")
 	applied, conflicts := 0, 0
-	for _, p := range smallPatches(3, 4) {
+	for _, p := range samples.SmallPatches(3, 4) {
 		for _, text := range all {
 			if i := firstConflict(p, text); i >= 0 {
 				checkApply(t, p, text, nil, fault(api.ErrConflict, i))
@@ -347,7 +294,7 @@ func invert(p api.Patch) api.Patch {
 }
 
 func TestInvertFollowsDefinition(t *testing.T) {
-	for _, p := range smallPatches(4, 6) {
+	for _, p := range samples.SmallPatches(4, 6) {
 		checkInvert(t, p, invert(p), api.Fault{})
 	}
 }
@@ -370,7 +317,7 @@ func TestInverseUndoes(t *testing.T) {
 	undone := 0
 	for range 500 {
 		text := samples.RandomText(random.Intn, random.Intn(api.MaxLines+1), 3)
-		p := randomPatch(random, text, 2+random.Intn(8), 3)
+		p := samples.RandomPatch(random.Intn, text, 2+random.Intn(8), 3)
 		if changedText, f := Apply(p, text); f == (api.Fault{}) {
 			inverse, _ := Invert(p)
 			checkInvert(t, inverse, p, api.Fault{})
@@ -477,7 +424,7 @@ func difference(old []string, text []tagged) api.Patch {
 }
 
 func TestComposeFollowsDefinition(t *testing.T) {
-	several := smallPatches(3, 3)
+	several := samples.SmallPatches(3, 3)
 	faults := map[api.Fault]int{}
 	for _, p := range several {
 		for _, q := range several {
@@ -499,12 +446,12 @@ func TestLargeCompositions(t *testing.T) {
 	for range 2000 {
 		kinds := 1 + random.Intn(5)
 		text := samples.RandomText(random.Intn, random.Intn(api.MaxLines+1), kinds)
-		p := randomPatch(random, text, 2+random.Intn(8), kinds)
+		p := samples.RandomPatch(random.Intn, text, 2+random.Intn(8), kinds)
 		middle, f := Apply(p, text)
 		if f != (api.Fault{}) {
 			continue
 		}
-		q := randomPatch(random, middle, 2+random.Intn(8), kinds)
+		q := samples.RandomPatch(random.Intn, middle, 2+random.Intn(8), kinds)
 		result, f := Apply(q, middle)
 		if f != (api.Fault{}) {
 			continue
@@ -641,39 +588,19 @@ func TestOrderOfComposeErrors(t *testing.T) {
 
 // Memory of all functions
 
-// spare returns a copy of a patch all of whose lists have more capacity than they need, filled with lines.
-func spare(p api.Patch) api.Patch {
-	hunks := make([]api.Hunk, 0, len(p.Hunks)+2)
-	for _, h := range p.Hunks {
-		hunks = append(hunks, api.Hunk{At: h.At, Old: withSpare(h.Old), New: withSpare(h.New)})
-	}
-	return api.Patch{Hunks: hunks}
-}
-
-func withSpare(text []string) []string {
-	return append(slices.Clone(text), "spare", "capacity")[:len(text)]
-}
-
-// contents returns the lists of a patch with all their capacity.
-func contents(p api.Patch) [][]string {
-	var lists [][]string
-	for _, h := range p.Hunks[:cap(p.Hunks)] {
-		lists = append(lists, slices.Clone(h.Old[:cap(h.Old)]), slices.Clone(h.New[:cap(h.New)]))
-	}
-	return lists
-}
-
 func TestArgumentsStay(t *testing.T) {
-	p := spare(patch(hunk(0, "a", "b c"), hunk(2, "", "d"), hunk(4, "e", "")))
-	q := spare(patch(hunk(1, "c x", ""), hunk(6, "f", "g h")))
-	text := withSpare(words("a x y z e"))
-	beforeP, beforeQ, beforeText := contents(p), contents(q), slices.Clone(text[:cap(text)])
+	p := samples.SparePatch(patch(hunk(0, "a", "b c"), hunk(2, "", "d"), hunk(4, "e", "")))
+	q := samples.SparePatch(patch(hunk(1, "c x", ""), hunk(6, "f", "g h")))
+	text := samples.Spare(words("a x y z e"))
+	beforeP, beforeQ := samples.WithCapacity(p), samples.WithCapacity(q)
+	beforeText := slices.Clone(text[:cap(text)])
 	Validate(p)
 	checkApply(t, p, text, words("b c x d y z"), api.Fault{})
 	checkInvert(t, p, patch(hunk(0, "b c", "a"), hunk(3, "d", ""), hunk(6, "", "e")), api.Fault{})
 	checkCompose(t, p, q, patch(hunk(0, "a x", "b d"), hunk(4, "e f", "g h")), api.Fault{})
-	if !slices.EqualFunc(beforeP, contents(p), slices.Equal) || !slices.EqualFunc(beforeQ, contents(q), slices.Equal) {
-		t.Errorf("the patches became %v and %v", contents(p), contents(q))
+	afterP, afterQ := samples.WithCapacity(p), samples.WithCapacity(q)
+	if !samples.EqualPatches(beforeP, afterP) || !samples.EqualPatches(beforeQ, afterQ) {
+		t.Errorf("the patches became %v and %v", afterP, afterQ)
 	}
 	if !slices.Equal(beforeText, text[:cap(text)]) {
 		t.Errorf("the text became %q", text[:cap(text)])
@@ -681,9 +608,9 @@ func TestArgumentsStay(t *testing.T) {
 }
 
 func TestResultsAreNewMemory(t *testing.T) {
-	p := spare(patch(hunk(0, "a", "b c"), hunk(2, "", "d"), hunk(4, "e", "")))
-	q := spare(patch(hunk(1, "c x", ""), hunk(6, "f", "g h")))
-	text := withSpare(words("a x y z e"))
+	p := samples.SparePatch(patch(hunk(0, "a", "b c"), hunk(2, "", "d"), hunk(4, "e", "")))
+	q := samples.SparePatch(patch(hunk(1, "c x", ""), hunk(6, "f", "g h")))
+	text := samples.Spare(words("a x y z e"))
 	lists := [][]string{text}
 	addHunks := func(p api.Patch) {
 		for _, h := range p.Hunks {
@@ -712,7 +639,7 @@ func TestResultsAreNewMemory(t *testing.T) {
 }
 
 func TestHunksAreNewMemory(t *testing.T) {
-	p := spare(patch(hunk(0, "a", "b")))
+	p := samples.SparePatch(patch(hunk(0, "a", "b")))
 	inverse, _ := Invert(p)
 	left, _ := Compose(p, patch())
 	right, _ := Compose(patch(), p)
