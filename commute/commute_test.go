@@ -1,7 +1,6 @@
 package commute
 
 import (
-	"math"
 	"math/rand"
 	"slices"
 	"testing"
@@ -11,7 +10,7 @@ import (
 	"changeforge/textpatch"
 )
 
-const longest, tooLong, newLine = samples.Longest, samples.TooLong, samples.NewLine
+const longest = samples.Longest
 
 var (
 	fault, repeat, words = samples.Fault, samples.Repeat, samples.Words
@@ -507,55 +506,30 @@ func checkFault(t *testing.T, first, second api.Patch, want api.Fault) {
 	checkRebase(t, first, second, move{fault: want})
 }
 
-// An invalid patch has an error at its last hunk, or as a whole.
-type invalid struct {
-	p     api.Patch
-	fault api.Fault
-}
-
-func invalidPatches() []invalid {
-	broken := func(h api.Hunk, code int) invalid {
-		return invalid{patch(hunk(0, "", "a"), h), fault(code, 1)}
-	}
-	return []invalid{
-		{insertions(api.MaxHunks + 1), fault(api.ErrTooMany, -1)},
-		{patch(hunk(-1, "a", "")), fault(api.ErrRange, 0)},
-		{patch(hunk(math.MinInt, "", "a")), fault(api.ErrRange, 0)},
-		broken(hunk(api.MaxLines+1, "", "a"), api.ErrRange),
-		broken(hunk(math.MaxInt, "a", "b"), api.ErrRange),
-		broken(api.Hunk{At: 5, Old: repeat("x", api.MaxLines+1)}, api.ErrTooMany),
-		broken(api.Hunk{At: 5, Old: []string{tooLong}}, api.ErrTooMany),
-		broken(api.Hunk{At: 5, New: []string{"a", newLine}}, api.ErrMalformed),
-		broken(api.Hunk{At: 5}, api.ErrMalformed),
-		broken(hunk(0, "a", "b"), api.ErrMalformed),
-		broken(hunk(api.MaxLines, "a", ""), api.ErrRange),
-	}
-}
-
 func TestErrorsOfFirstPatch(t *testing.T) {
-	for _, c := range invalidPatches() {
-		checkFault(t, c.p, patch(), c.fault)
-		checkFault(t, c.p, patch(hunk(30, "a", "b")), c.fault)
+	for _, c := range samples.InvalidPatches() {
+		checkFault(t, c.Patch, patch(), c.Fault)
+		checkFault(t, c.Patch, patch(hunk(30, "a", "b")), c.Fault)
 		// This comes before whether the patches touch, and before the size of the result.
-		checkFault(t, c.p, patch(hunk(0, "a", "b")), c.fault)
-		checkFault(t, c.p, patch(hunk(api.MaxLines, "", "b")), c.fault)
+		checkFault(t, c.Patch, patch(hunk(0, "a", "b")), c.Fault)
+		checkFault(t, c.Patch, patch(hunk(api.MaxLines, "", "b")), c.Fault)
 	}
 }
 
 func TestErrorsOfSecondPatch(t *testing.T) {
-	for _, c := range invalidPatches() {
-		want := fault(c.fault.Code, -2)
-		checkFault(t, patch(), c.p, want)
-		checkFault(t, patch(hunk(30, "a", "b")), c.p, want)
-		checkFault(t, patch(hunk(0, "a", "b")), c.p, want)
-		checkFault(t, patch(hunk(api.MaxLines, "", "b")), c.p, want)
+	for _, c := range samples.InvalidPatches() {
+		want := fault(c.Fault.Code, -2)
+		checkFault(t, patch(), c.Patch, want)
+		checkFault(t, patch(hunk(30, "a", "b")), c.Patch, want)
+		checkFault(t, patch(hunk(0, "a", "b")), c.Patch, want)
+		checkFault(t, patch(hunk(api.MaxLines, "", "b")), c.Patch, want)
 	}
 }
 
 func TestErrorsOfFirstPatchComeFirst(t *testing.T) {
-	for _, first := range invalidPatches() {
-		for _, second := range invalidPatches() {
-			checkFault(t, first.p, second.p, first.fault)
+	for _, first := range samples.InvalidPatches() {
+		for _, second := range samples.InvalidPatches() {
+			checkFault(t, first.Patch, second.Patch, first.Fault)
 		}
 	}
 }

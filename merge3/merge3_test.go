@@ -13,7 +13,7 @@ import (
 	"changeforge/textpatch"
 )
 
-const longest, tooLong, newLine = samples.Longest, samples.TooLong, samples.NewLine
+const longest, tooLong = samples.Longest, samples.TooLong
 
 var fault, repeat, words = samples.Fault, samples.Repeat, samples.Words
 
@@ -370,36 +370,19 @@ func TestMergeLongerThanText(t *testing.T) {
 	checkClean(t, want, nil, false, fault(api.ErrTooMany, 0))
 }
 
-// An invalid text has an error at one line, or as a whole.
-type invalid struct {
-	text  []string
-	fault api.Fault
-}
-
-func invalidTexts() []invalid {
-	return []invalid{
-		{repeat("a", api.MaxLines+1), fault(api.ErrTooMany, -1)},
-		{repeat(newLine, api.MaxLines+1), fault(api.ErrTooMany, -1)},
-		{[]string{tooLong}, fault(api.ErrTooMany, 0)},
-		{[]string{"a", longest, tooLong, newLine}, fault(api.ErrTooMany, 2)},
-		{[]string{"a", newLine, tooLong}, fault(api.ErrMalformed, 1)},
-		{append(repeat("a", api.MaxLines-1), newLine), fault(api.ErrMalformed, api.MaxLines-1)},
-	}
-}
-
 func TestErrorsOfMerge(t *testing.T) {
 	valid := words("a b")
-	for _, first := range invalidTexts() {
-		ofLeft, ofRight := fault(first.fault.Code, -2), fault(first.fault.Code, -3)
-		checkMerge(t, first.text, valid, valid, nil, first.fault)
-		checkMerge(t, valid, first.text, valid, nil, ofLeft)
-		checkMerge(t, valid, valid, first.text, nil, ofRight)
-		checkMerge(t, nil, nil, first.text, nil, ofRight)
-		for _, second := range invalidTexts() {
-			checkMerge(t, first.text, second.text, valid, nil, first.fault)
-			checkMerge(t, first.text, valid, second.text, nil, first.fault)
-			checkMerge(t, first.text, second.text, second.text, nil, first.fault)
-			checkMerge(t, valid, first.text, second.text, nil, ofLeft)
+	for _, first := range samples.InvalidTexts() {
+		ofLeft, ofRight := fault(first.Fault.Code, -2), fault(first.Fault.Code, -3)
+		checkMerge(t, first.Text, valid, valid, nil, first.Fault)
+		checkMerge(t, valid, first.Text, valid, nil, ofLeft)
+		checkMerge(t, valid, valid, first.Text, nil, ofRight)
+		checkMerge(t, nil, nil, first.Text, nil, ofRight)
+		for _, second := range samples.InvalidTexts() {
+			checkMerge(t, first.Text, second.Text, valid, nil, first.Fault)
+			checkMerge(t, first.Text, valid, second.Text, nil, first.Fault)
+			checkMerge(t, first.Text, second.Text, second.Text, nil, first.Fault)
+			checkMerge(t, valid, first.Text, second.Text, nil, ofLeft)
 		}
 	}
 }
@@ -462,15 +445,15 @@ func chunksWithInvalidTexts() []invalidChunk {
 		all = append(all, invalidChunk{chunkOf(false, texts), code}, invalidChunk{chunkOf(true, texts), code})
 	}
 	for i := range 4 {
-		for _, first := range invalidTexts() {
+		for _, first := range samples.InvalidTexts() {
 			var texts [4][]string
-			texts[i] = first.text
-			add(texts, first.fault.Code)
+			texts[i] = first.Text
+			add(texts, first.Fault.Code)
 			for j := i + 1; j < 4; j++ {
-				for _, second := range invalidTexts() {
+				for _, second := range samples.InvalidTexts() {
 					both := texts
-					both[j] = second.text
-					add(both, first.fault.Code)
+					both[j] = second.Text
+					add(both, first.Fault.Code)
 				}
 			}
 		}

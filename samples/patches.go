@@ -1,6 +1,7 @@
 package samples
 
 import (
+	"math"
 	"slices"
 
 	"changeforge/api"
@@ -58,6 +59,32 @@ func Patches(n, from, to int, olds, news [][]string) []api.Patch {
 func SmallPatches(hunks, to int) []api.Patch {
 	large := Patches(1, 0, 2, Texts(2, "a", "b"), Texts(2, "a", "b"))
 	return append(large, Patches(hunks, 0, to, Texts(1, "a"), Texts(1, "a", "b"))...)
+}
+
+// An InvalidPatch has an error at its last hunk, or as a whole.
+type InvalidPatch struct {
+	Patch api.Patch
+	Fault api.Fault
+}
+
+// InvalidPatches returns patches with their errors.
+func InvalidPatches() []InvalidPatch {
+	broken := func(h api.Hunk, code int) InvalidPatch {
+		return InvalidPatch{Patch(Hunk(0, "", "a"), h), Fault(code, 1)}
+	}
+	return []InvalidPatch{
+		{Insertions(api.MaxHunks + 1), Fault(api.ErrTooMany, -1)},
+		{Patch(Hunk(-1, "a", "")), Fault(api.ErrRange, 0)},
+		{Patch(Hunk(math.MinInt, "", "a")), Fault(api.ErrRange, 0)},
+		broken(Hunk(api.MaxLines+1, "", "a"), api.ErrRange),
+		broken(Hunk(math.MaxInt, "a", "b"), api.ErrRange),
+		broken(api.Hunk{At: 5, Old: Repeat("x", api.MaxLines+1)}, api.ErrTooMany),
+		broken(api.Hunk{At: 5, Old: []string{TooLong}}, api.ErrTooMany),
+		broken(api.Hunk{At: 5, New: []string{"a", NewLine}}, api.ErrMalformed),
+		broken(api.Hunk{At: 5}, api.ErrMalformed),
+		broken(Hunk(0, "a", "b"), api.ErrMalformed),
+		broken(Hunk(api.MaxLines, "a", ""), api.ErrRange),
+	}
 }
 
 // RandomPatch returns a patch that can be applied to the text. A call of random returns a number in [0, n).

@@ -6,6 +6,7 @@ import (
 	"testing"
 
 	"changeforge/api"
+	"changeforge/textpatch"
 )
 
 func TestEqualPatches(t *testing.T) {
@@ -58,6 +59,14 @@ func TestPatches(t *testing.T) {
 	}
 	for _, p := range SmallPatches(3, 4) {
 		checkApart(t, p)
+	}
+}
+
+func TestInvalidPatches(t *testing.T) {
+	for _, c := range InvalidPatches() {
+		if got := textpatch.Validate(c.Patch); got != c.Fault || got == (api.Fault{}) {
+			t.Errorf("%.100v: got %v, want %v", c.Patch, got, c.Fault)
+		}
 	}
 }
 

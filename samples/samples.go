@@ -43,6 +43,24 @@ func Texts(n int, from ...string) [][]string {
 	return all
 }
 
+// An InvalidText has an error at one line, or as a whole.
+type InvalidText struct {
+	Text  []string
+	Fault api.Fault
+}
+
+// InvalidTexts returns texts with their errors.
+func InvalidTexts() []InvalidText {
+	return []InvalidText{
+		{Repeat("a", api.MaxLines+1), Fault(api.ErrTooMany, -1)},
+		{Repeat(NewLine, api.MaxLines+1), Fault(api.ErrTooMany, -1)},
+		{[]string{TooLong}, Fault(api.ErrTooMany, 0)},
+		{[]string{"a", Longest, TooLong, NewLine}, Fault(api.ErrTooMany, 2)},
+		{[]string{"a", NewLine, TooLong}, Fault(api.ErrMalformed, 1)},
+		{append(Repeat("a", api.MaxLines-1), NewLine), Fault(api.ErrMalformed, api.MaxLines-1)},
+	}
+}
+
 // RandomText returns a text of n lines of the given number of kinds. A call of random returns a number in [0, n).
 func RandomText(random func(n int) int, n, kinds int) []string {
 	var text []string

@@ -5,6 +5,7 @@ import (
 	"testing"
 
 	"changeforge/api"
+	"changeforge/lines"
 )
 
 func TestLinesAtLimits(t *testing.T) {
@@ -20,6 +21,14 @@ func TestTexts(t *testing.T) {
 	}
 	if n := len(Texts(3, "a", "b", "c")); n != 1+3+9+27 {
 		t.Errorf("got %d texts", n)
+	}
+}
+
+func TestInvalidTexts(t *testing.T) {
+	for _, c := range InvalidTexts() {
+		if got := lines.Validate(c.Text); got != c.Fault || got == (api.Fault{}) {
+			t.Errorf("%.100q: got %v, want %v", c.Text, got, c.Fault)
+		}
 	}
 }
 
