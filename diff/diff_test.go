@@ -81,50 +81,6 @@ func subsequences(text string) []string {
 	return slices.Compact(all)
 }
 
-// lengthOfLarge counts the places at which the subsequences of each length end soonest.
-func lengthOfLarge(a, b []string) int {
-	var ends []int
-	for _, line := range a {
-		for n := len(ends); n >= 0; n-- {
-			from := 0
-			if n > 0 {
-				from = ends[n-1]
-			}
-			k := slices.Index(b[from:], line)
-			switch {
-			case k < 0:
-			case n == len(ends):
-				ends = append(ends, from+k+1)
-			default:
-				ends[n] = min(ends[n], from+k+1)
-			}
-		}
-	}
-	return len(ends)
-}
-
-// walk is the walk that the document describes: a word of the letters k, d and i for lines that are kept, deleted and inserted.
-func walk(a, b []string, longestCommon length) string {
-	word := ""
-	for len(a) > 0 || len(b) > 0 {
-		switch {
-		case len(a) > 0 && len(b) > 0 && a[0] == b[0]:
-			word += "k"
-			a, b = a[1:], b[1:]
-		case len(b) == 0:
-			word += "d"
-			a = a[1:]
-		case len(a) > 0 && longestCommon(a[1:], b) >= longestCommon(a, b[1:]):
-			word += "d"
-			a = a[1:]
-		default:
-			word += "i"
-			b = b[1:]
-		}
-	}
-	return word
-}
-
 // script makes the patch of an alignment, step by step.
 func script(a, b []string, word string) api.Patch {
 	var p api.Patch
@@ -164,7 +120,7 @@ func kept(a []string, word string) []string {
 // checkAll compares all functions with their definitions.
 func checkAll(t *testing.T, a, b []string, longestCommon length) {
 	t.Helper()
-	word := walk(a, b, longestCommon)
+	word := samples.Alignment(a, b, longestCommon)
 	checkDistance(t, a, b, len(a)+len(b)-2*longestCommon(a, b), api.Fault{})
 	checkDistance(t, a, b, len(word)-strings.Count(word, "k"), api.Fault{})
 	checkScript(t, a, b, script(a, b, word), api.Fault{})
@@ -190,12 +146,12 @@ func TestLongTextsFollowDefinition(t *testing.T) {
 		kinds := 1 + random.Intn(26)
 		a := samples.RandomText(random.Intn, random.Intn(40), kinds)
 		b := samples.RandomText(random.Intn, random.Intn(40), kinds)
-		checkAll(t, a, b, lengthOfLarge)
+		checkAll(t, a, b, samples.LongestCommon)
 	}
 	for _, kinds := range []int{1, 2, 5, 26} {
 		a := samples.RandomText(random.Intn, api.MaxLines, kinds)
 		b := samples.RandomText(random.Intn, api.MaxLines, kinds)
-		checkAll(t, a, b, lengthOfLarge)
+		checkAll(t, a, b, samples.LongestCommon)
 	}
 }
 
